@@ -7,7 +7,6 @@ import (
 	"strconv"
 	"strings"
 	"testing"
-	"unsafe"
 
 	"loop.example/g00271/impl"
 )
@@ -147,12 +146,6 @@ func wrongIn(t impl.Tree) string {
 	return ""
 }
 
-// span is where a list lies in memory, up to what it may grow into.
-type span struct {
-	from, to uintptr
-	what     string
-}
-
 func spansOf(t impl.Tree, what string) []span {
 	return addSpans(nil, t, what+" Keys", what+" Vals", what+" Kids")
 }
@@ -165,12 +158,6 @@ func addSpans(l []span, t impl.Tree, keys string, vals string, kids string) []sp
 	return l
 }
 
-func spanOf[T any](l []T, what string) span {
-	var one T
-	from := uintptr(unsafe.Pointer(unsafe.SliceData(l)))
-	return span{from, from + uintptr(cap(l))*unsafe.Sizeof(one), what}
-}
-
 // apart fails the test, if two lists of these trees share memory.
 func apart(t *testing.T, what string, trees ...impl.Tree) {
 	t.Helper()
@@ -178,19 +165,7 @@ func apart(t *testing.T, what string, trees ...impl.Tree) {
 	for i, x := range trees {
 		spans = append(spans, spansOf(x, "tree "+strconv.Itoa(i))...)
 	}
-	spans = slices.DeleteFunc(spans, func(s span) bool { return s.from == s.to })
-	slices.SortFunc(spans, func(a, b span) int {
-		if a.from < b.from {
-			return -1
-		}
-		return 1
-	})
-	for i := 1; i < len(spans); i++ {
-		if spans[i].from < spans[i-1].to {
-			t.Errorf("%s: %s and %s share memory", what, spans[i-1].what, spans[i].what)
-			return
-		}
-	}
+	spansApart(t, what, spans)
 }
 
 // changed does a put or a del, and fails the test, if what was handed in is not as it was, or shares memory with the answer.
