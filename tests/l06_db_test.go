@@ -808,14 +808,27 @@ func TestDbBytes(t *testing.T) {
 }
 
 // dbOfSize is a database of just so many bytes.
-func dbOfSize(size int) impl.Db {
+func dbOfSize(size int) impl.Db { return dbOfRows(impl.MaxRows, size) }
+
+// longSchema is that of a table whose rows may be as long as any.
+func longSchema() impl.Schema {
 	s := impl.Schema{Name: "long", Columns: []impl.Column{{Name: "id", Kind: impl.KindInt}}, Key: []int64{0}}
 	for i := 1; i < impl.MaxColumns; i++ {
 		s.Columns = append(s.Columns, impl.Column{Name: longName(i), Kind: impl.KindText})
 	}
-	x := impl.Table{Schema: s}
-	for i := range impl.MaxRows {
-		x.Rows = append(x.Rows, append(valuesOf(intOf(int64(i))), repeated(textOf("aaaaaaaaaa"), impl.MaxColumns-1)...))
+	return s
+}
+
+// longRow is a row of that schema, whose texts have room for more.
+func longRow(id int64) []impl.Value {
+	return append(valuesOf(intOf(id)), repeated(textOf("aaaaaaaaaa"), impl.MaxColumns-1)...)
+}
+
+// dbOfRows is a database of just so many bytes, with so many long rows.
+func dbOfRows(rows int, size int) impl.Db {
+	x := impl.Table{Schema: longSchema()}
+	for i := range rows {
+		x.Rows = append(x.Rows, longRow(int64(i)))
 	}
 	d := dbOf(tableOf(pets(), pet(1, "ada")))
 	d.Tables = slices.Insert(d.Tables, 0, x)
